@@ -1,0 +1,99 @@
+package rules
+
+import (
+	"go/ast"
+	"go/importer"
+	"go/parser"
+	"go/token"
+	"go/types"
+	"testing"
+)
+
+// ways is those of the language's ways that a package leans on, each with one place of it.
+type ways struct {
+	types.Info
+	fset  *token.FileSet
+	found map[string]string
+}
+
+// look finds the ways of a package.
+func look(t *testing.T, layer string) map[string]string {
+	t.Helper()
+	w := ways{fset: token.NewFileSet(), found: map[string]string{}}
+	w.Types = map[ast.Expr]types.TypeAndValue{}
+	w.Selections = map[*ast.SelectorExpr]*types.Selection{}
+	var files []*ast.File
+	for _, name := range sources(t, layer) {
+		f, err := parser.ParseFile(w.fset, name, nil, 0)
+		if err != nil {
+			t.Fatal(err)
+		}
+		files = append(files, f)
+	}
+	c := types.Config{Importer: importer.ForCompiler(w.fset, "source", nil)}
+	if _, err := c.Check("freshet/"+layer, w.fset, files, &w.Info); err != nil {
+		t.Fatal(err)
+	}
+	for _, f := range files {
+		called := map[ast.Expr]bool{}
+		ast.Inspect(f, func(n ast.Node) bool {
+			if x, ok := n.(*ast.CallExpr); ok {
+				called[ast.Unparen(x.Fun)] = true
+			}
+			w.node(n, called)
+			return true
+		})
+	}
+	return w.found
+}
+
+func (w *ways) node(n ast.Node, called map[ast.Expr]bool) {
+	switch x := n.(type) {
+	case *ast.CallExpr:
+		w.call(x)
+	case *ast.StructType:
+		for _, f := range x.Fields.List {
+			if len(f.Names) == 0 {
+				w.add("embedding", n)
+			}
+		}
+	case *ast.SelectorExpr:
+		s := w.Selections[x]
+		if s == nil {
+			return
+		}
+		if len(s.Index()) > 1 && s.Kind() == types.MethodVal {
+			w.add("promoted", n)
+		}
+		if s.Kind() == types.MethodVal && !called[x] {
+			w.add("method-value", n)
+		}
+	}
+}
+
+// call: several parts, or a list of them, are handed to a variadic function.
+func (w *ways) call(x *ast.CallExpr) {
+	f, ok := w.Types[x.Fun].Type.(*types.Signature)
+	if ok && f.Variadic() && (len(x.Args) > f.Params().Len() || x.Ellipsis.IsValid()) {
+		w.add("variadic", x)
+	}
+}
+
+func (w *ways) add(word string, n ast.Node) {
+	w.found[word] = w.fset.Position(n.Pos()).String()
+}
+
+// Ways
+func TestWays(t *testing.T) {
+	for layer, words := range map[string][]string{
+		"pack": {"variadic", "method-value"},
+		"disk": {"variadic", "embedding", "promoted"},
+	} {
+		found := look(t, layer)
+		for _, word := range words {
+			if found[word] == "" {
+				t.Errorf("%s: no %s", layer, word)
+			}
+		}
+	}
+}
