@@ -21,6 +21,7 @@ func look(t *testing.T, layer string) map[string]string {
 	t.Helper()
 	w := ways{fset: token.NewFileSet(), found: map[string]string{}}
 	w.Types = map[ast.Expr]types.TypeAndValue{}
+	w.Uses = map[*ast.Ident]types.Object{}
 	w.Selections = map[*ast.SelectorExpr]*types.Selection{}
 	var files []*ast.File
 	for _, name := range sources(t, layer) {
@@ -51,6 +52,14 @@ func (w *ways) node(n ast.Node, called map[ast.Expr]bool) {
 	switch x := n.(type) {
 	case *ast.CallExpr:
 		w.call(x)
+	case *ast.Ident:
+		if w.Uses[x] == types.Universe.Lookup("iota") {
+			w.add("iota", n)
+		}
+	case *ast.BinaryExpr:
+		if (x.Op == token.EQL || x.Op == token.NEQ) && w.array(x.X) {
+			w.add("array-compared", n)
+		}
 	case *ast.StructType:
 		for _, f := range x.Fields.List {
 			if len(f.Names) == 0 {
@@ -58,6 +67,9 @@ func (w *ways) node(n ast.Node, called map[ast.Expr]bool) {
 			}
 		}
 	case *ast.SelectorExpr:
+		if w.array(x) {
+			w.add("array", n)
+		}
 		s := w.Selections[x]
 		if s == nil {
 			return
@@ -69,6 +81,15 @@ func (w *ways) node(n ast.Node, called map[ast.Expr]bool) {
 			w.add("method-value", n)
 		}
 	}
+}
+
+func (w *ways) array(x ast.Expr) bool {
+	t := w.Types[x].Type
+	if t == nil {
+		return false
+	}
+	_, ok := t.Underlying().(*types.Array)
+	return ok
 }
 
 // call: several parts, or a list of them, are handed to a variadic function.
@@ -86,8 +107,10 @@ func (w *ways) add(word string, n ast.Node) {
 // Ways
 func TestWays(t *testing.T) {
 	for layer, words := range map[string][]string{
-		"pack": {"variadic", "method-value"},
-		"disk": {"variadic", "embedding", "promoted"},
+		"pack":   {"variadic", "method-value"},
+		"disk":   {"variadic", "embedding", "promoted"},
+		"value":  {"variadic", "iota"},
+		"moment": {"variadic", "array", "array-compared"},
 	} {
 		found := look(t, layer)
 		for _, word := range words {
