@@ -60,6 +60,18 @@ func (w *ways) node(n ast.Node, called map[ast.Expr]bool) {
 		if (x.Op == token.EQL || x.Op == token.NEQ) && w.array(x.X) {
 			w.add("array-compared", n)
 		}
+	case *ast.FuncDecl:
+		if x.Type.TypeParams != nil {
+			w.add("generic-function", n)
+		}
+	case *ast.TypeSpec:
+		if x.TypeParams != nil {
+			w.add("generic-type", n)
+		}
+	case *ast.SliceExpr:
+		if x.Slice3 {
+			w.add("three-index", n)
+		}
 	case *ast.StructType:
 		for _, f := range x.Fields.List {
 			if len(f.Names) == 0 {
@@ -74,8 +86,11 @@ func (w *ways) node(n ast.Node, called map[ast.Expr]bool) {
 		if s == nil {
 			return
 		}
-		if len(s.Index()) > 1 && s.Kind() == types.MethodVal {
+		if len(s.Index()) > 1 {
 			w.add("promoted", n)
+			if s.Kind() == types.MethodVal {
+				w.add("promoted-method", n)
+			}
 		}
 		if s.Kind() == types.MethodVal && !called[x] {
 			w.add("method-value", n)
@@ -92,8 +107,11 @@ func (w *ways) array(x ast.Expr) bool {
 	return ok
 }
 
-// call: several parts, or a list of them, are handed to a variadic function.
+// call: several parts, or a list of them, are handed to a variadic function; or a list is copied.
 func (w *ways) call(x *ast.CallExpr) {
+	if f, ok := x.Fun.(*ast.Ident); ok && w.Uses[f] == types.Universe.Lookup("copy") {
+		w.add("copy", x)
+	}
 	f, ok := w.Types[x.Fun].Type.(*types.Signature)
 	if ok && f.Variadic() && (len(x.Args) > f.Params().Len() || x.Ellipsis.IsValid()) {
 		w.add("variadic", x)
@@ -108,9 +126,12 @@ func (w *ways) add(word string, n ast.Node) {
 func TestWays(t *testing.T) {
 	for layer, words := range map[string][]string{
 		"pack":   {"variadic", "method-value"},
-		"disk":   {"variadic", "embedding", "promoted"},
+		"disk":   {"variadic", "embedding", "promoted-method"},
 		"value":  {"variadic", "iota"},
 		"moment": {"variadic", "array", "array-compared"},
+		"diff":   {"generic-function", "generic-type", "embedding", "promoted-method"},
+		"copies": {"copy"}, // for diff and batch
+		"batch":  {"embedding", "promoted", "three-index"},
 	} {
 		found := look(t, layer)
 		for _, word := range words {
