@@ -58,7 +58,7 @@ func Work(m api.Merger, fuel int) (api.Merger, int, api.Errno) {
 	if why := CheckMerger(m); why != api.OK {
 		return api.Merger{}, 0, why
 	}
-	w := merging{Merger: api.Merger{A: copies.Updates(m.A), B: copies.Updates(m.B), I: m.I, J: m.J, Since: copies.List(m.Since), Out: copies.Updates(m.Out)}}
+	w := merging{Merger: copies.Merger(m)}
 	for w.left() && w.cost < fuel {
 		if why := w.step(); why != api.OK {
 			return w.Merger, w.cost, why
@@ -103,5 +103,5 @@ func End(m api.Merger) (api.Batch, api.Errno) {
 	if w := (merging{Merger: m}); w.left() {
 		return api.Batch{}, api.ErrState
 	}
-	return api.Batch{Since: copies.List(m.Since), Updates: copies.Updates(m.Out)}, api.OK
+	return copies.Batch(api.Batch{Since: m.Since, Updates: m.Out}), api.OK
 }

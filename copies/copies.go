@@ -13,11 +13,47 @@ func List[T any](l []T) []T {
 	return c
 }
 
+// rows makes copies of rows that lie one behind the other, so that many of them do not need memory one by one.
+type rows []api.Value
+
+// copy returns a copy of r without spare capacity, so that no other row is written into by what is appended to it.
+func (l *rows) copy(r []api.Value) []api.Value {
+	if len(r) == 0 {
+		return nil
+	}
+	i := len(*l)
+	*l = append(*l, r...)
+	return (*l)[i:len(*l):len(*l)]
+}
+
 // Updates returns a copy of updates with their rows.
 func Updates(l []api.Update) []api.Update {
-	c := List(l)
+	n := 0
+	for _, u := range l {
+		n += len(u.Key) + len(u.Row)
+	}
+	c, values := List(l), make(rows, 0, n)
 	for i, u := range c {
-		c[i].Key, c[i].Row = List(u.Key), List(u.Row)
+		c[i].Key, c[i].Row = values.copy(u.Key), values.copy(u.Row)
+	}
+	return c
+}
+
+// Batch returns a copy of a batch with all its lists.
+func Batch(b api.Batch) api.Batch {
+	return api.Batch{Since: List(b.Since), Updates: Updates(b.Updates)}
+}
+
+// Merger returns a copy of a merger with all its lists.
+func Merger(m api.Merger) api.Merger {
+	return api.Merger{A: Updates(m.A), B: Updates(m.B), I: m.I, J: m.J, Since: List(m.Since), Out: Updates(m.Out)}
+}
+
+// Spine returns a copy of a spine with all its lists.
+func Spine(s api.Spine) api.Spine {
+	c := api.Spine{Since: List(s.Since), Levels: List(s.Levels)}
+	for i, l := range c.Levels {
+		c.Levels[i].Batch, c.Levels[i].Merger = Batch(l.Batch), Merger(l.Merger)
 	}
 	return c
 }

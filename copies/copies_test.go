@@ -1,6 +1,7 @@
 package copies_test
 
 import (
+	"reflect"
 	"slices"
 	"testing"
 
@@ -24,21 +25,87 @@ func TestList(t *testing.T) {
 	}
 }
 
+// updates is three updates with the same rows.
+func updates() []api.Update {
+	row := []api.Value{{N: 1}, {IsText: true, S: "a"}}
+	time := api.Time{Epoch: 1, Loop: [2]uint64{2, 3}}
+	return []api.Update{{Key: row[:1], Row: row, Time: time, Diff: 4}, {Row: row, Time: time, Diff: -4}, {Key: row, Diff: 7}}
+}
+
 func TestUpdates(t *testing.T) {
 	if c := copies.Updates(nil); len(c) != 0 {
 		t.Errorf("of none: %v", c)
 	}
-	row := []api.Value{{N: 1}, {IsText: true, S: "a"}}
-	time := api.Time{Epoch: 1, Loop: [2]uint64{2, 3}}
-	l := []api.Update{{Key: row[:1], Row: row, Time: time, Diff: 4}, {Row: row, Time: time, Diff: -4}}
+	l := updates()
 	c := copies.Updates(l)
-	for i, u := range c {
-		if !slices.Equal(u.Key, l[i].Key) || !slices.Equal(u.Row, row) || u.Time != time || u.Diff != l[i].Diff {
-			t.Errorf("copied: %v", u)
+	if !reflect.DeepEqual(c, l) {
+		t.Errorf("copied: %v", c)
+	}
+	for _, u := range c {
+		if cap(u.Key) != len(u.Key) || cap(u.Row) != len(u.Row) {
+			t.Errorf("rows with spare capacity: %v", u)
 		}
 	}
 	c[0].Key[0].N, c[0].Row[1].S, c[0].Diff = 8, "b", 8
-	if c[0].Row[0].N != 1 || c[1].Row[1].S != "a" || row[0].N != 1 || row[1].S != "a" || l[0].Diff != 4 {
+	if !reflect.DeepEqual(l, updates()) || !reflect.DeepEqual(c[1:], l[1:]) || c[0].Row[0].N != 1 {
 		t.Errorf("the copies %v of %v share memory", c, l)
+	}
+}
+
+// lists finds all lists in a value, of any depth.
+func lists(v reflect.Value, found func(reflect.Value)) {
+	switch v.Kind() {
+	case reflect.Slice:
+		found(v)
+		for i := range v.Len() {
+			lists(v.Index(i), found)
+		}
+	case reflect.Struct:
+		for i := range v.NumField() {
+			lists(v.Field(i), found)
+		}
+	}
+}
+
+// apart reports whether no two lists of values share an element, nor one of them and the given one.
+func apart(given any, l ...any) bool {
+	seen, ok := map[any]bool{}, true
+	look := func(x any) {
+		lists(reflect.ValueOf(x), func(v reflect.Value) {
+			for i := range v.Len() {
+				p := v.Index(i).Addr().Interface()
+				ok = ok && !seen[p]
+				seen[p] = true
+			}
+		})
+	}
+	look(given)
+	ok = true // what is given may share what it likes
+	for _, x := range l {
+		look(x)
+	}
+	return ok
+}
+
+func TestSpine(t *testing.T) {
+	since := []api.Time{{Epoch: 3}, {Epoch: 4}}
+	made := func() api.Spine {
+		return api.Spine{Since: since, Levels: []api.Level{
+			{Class: 5, Busy: true, Merger: api.Merger{A: updates(), B: updates(), I: 1, J: 2, Since: since[:1], Out: updates()}},
+			{Class: 3, Batch: api.Batch{Since: since, Updates: updates()}},
+			{},
+		}}
+	}
+	s := made()
+	c, d := copies.Spine(s), copies.Spine(s)
+	b, m := copies.Batch(s.Levels[1].Batch), copies.Merger(s.Levels[0].Merger)
+	if !reflect.DeepEqual(s, made()) || !reflect.DeepEqual(c, s) || !reflect.DeepEqual(b, s.Levels[1].Batch) || !reflect.DeepEqual(m, s.Levels[0].Merger) {
+		t.Errorf("copied: %v, %v, %v", c, b, m)
+	}
+	if !apart(s, c, d, b, m) {
+		t.Error("copies share memory")
+	}
+	if e := copies.Spine(api.Spine{}); len(e.Since)+len(e.Levels) != 0 {
+		t.Errorf("of none: %v", e)
 	}
 }

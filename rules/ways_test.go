@@ -57,8 +57,17 @@ func (w *ways) node(n ast.Node, called map[ast.Expr]bool) {
 			w.add("iota", n)
 		}
 	case *ast.BinaryExpr:
-		if (x.Op == token.EQL || x.Op == token.NEQ) && w.array(x.X) {
-			w.add("array-compared", n)
+		if x.Op == token.EQL || x.Op == token.NEQ {
+			switch w.under(x.X).(type) {
+			case *types.Array:
+				w.add("array-compared", n)
+			case *types.Struct:
+				w.add("struct-compared", n)
+			}
+		}
+	case *ast.RangeStmt:
+		if _, ok := w.under(x.X).(*types.Signature); ok {
+			w.add("range-function", n)
 		}
 	case *ast.FuncDecl:
 		if x.Type.TypeParams != nil {
@@ -79,7 +88,7 @@ func (w *ways) node(n ast.Node, called map[ast.Expr]bool) {
 			}
 		}
 	case *ast.SelectorExpr:
-		if w.array(x) {
+		if _, ok := w.under(x).(*types.Array); ok {
 			w.add("array", n)
 		}
 		s := w.Selections[x]
@@ -98,13 +107,12 @@ func (w *ways) node(n ast.Node, called map[ast.Expr]bool) {
 	}
 }
 
-func (w *ways) array(x ast.Expr) bool {
-	t := w.Types[x].Type
-	if t == nil {
-		return false
+// under is the underlying type of an expression, if it has one.
+func (w *ways) under(x ast.Expr) types.Type {
+	if t := w.Types[x].Type; t != nil {
+		return t.Underlying()
 	}
-	_, ok := t.Underlying().(*types.Array)
-	return ok
+	return nil
 }
 
 // call: several parts, or a list of them, are handed to a variadic function; or a list is copied.
@@ -132,6 +140,8 @@ func TestWays(t *testing.T) {
 		"diff":   {"generic-function", "generic-type", "embedding", "promoted-method"},
 		"copies": {"copy"}, // for diff and batch
 		"batch":  {"embedding", "promoted", "three-index"},
+		"spine":  {"embedding", "promoted", "range-function"},
+		"expr":   {"embedding", "promoted-method", "struct-compared"},
 	} {
 		found := look(t, layer)
 		for _, word := range words {
