@@ -39,6 +39,19 @@ func Updates(l []api.Update) []api.Update {
 	return c
 }
 
+// Counts returns a copy of counts with their rows.
+func Counts(l []api.Count) []api.Count {
+	n := 0
+	for _, c := range l {
+		n += len(c.Row)
+	}
+	c, values := List(l), make(rows, 0, n)
+	for i, x := range c {
+		c[i].Row = values.copy(x.Row)
+	}
+	return c
+}
+
 // Batch returns a copy of a batch with all its lists.
 func Batch(b api.Batch) api.Batch {
 	return api.Batch{Since: List(b.Since), Updates: Updates(b.Updates)}

@@ -52,6 +52,27 @@ func TestUpdates(t *testing.T) {
 	}
 }
 
+func TestCounts(t *testing.T) {
+	row := []api.Value{{N: 1}, {IsText: true, S: "a"}, {N: 2}}
+	made := func() []api.Count { return []api.Count{{Row: row[:2], N: 5}, {N: 6}, {Row: row, N: -7}} }
+	l := made()
+	c, d := copies.Counts(l), copies.Counts(l)
+	if !reflect.DeepEqual(c, l) || !reflect.DeepEqual(l, made()) {
+		t.Errorf("copied: %v", c)
+	}
+	for _, x := range c {
+		if cap(x.Row) != len(x.Row) {
+			t.Errorf("a row with spare capacity: %v", x)
+		}
+	}
+	if !apart(l, c, d) {
+		t.Error("copies share memory")
+	}
+	if e := copies.Counts(nil); len(e) != 0 {
+		t.Errorf("of none: %v", e)
+	}
+}
+
 // lists finds all lists in a value, of any depth.
 func lists(v reflect.Value, found func(reflect.Value)) {
 	switch v.Kind() {

@@ -3,12 +3,13 @@ package expr
 import (
 	"freshet/api"
 	"freshet/diff"
+	"freshet/first"
 	"freshet/value"
 )
 
 // evaluator evaluates an expression up to the first error; what it answers behind that does not matter.
 type evaluator struct {
-	failure
+	first.Error
 	row []api.Value
 }
 
@@ -22,8 +23,8 @@ func Eval(e api.Expr, row []api.Value) (api.Value, api.Errno) {
 	}
 	v := evaluator{row: row}
 	x := v.eval(e)
-	if v.why != api.OK {
-		return api.Value{}, v.why
+	if v.Why != api.OK {
+		return api.Value{}, v.Why
 	}
 	return x, api.OK
 }
@@ -46,13 +47,13 @@ func (v *evaluator) eval(e api.Expr) api.Value {
 		return api.Value{}
 	}
 	n, why := v.reckon(e)
-	v.fail(why)
+	v.Fail(why)
 	return api.Value{N: n}
 }
 
 func (v *evaluator) column(i int) api.Value {
 	if i < 0 || i >= len(v.row) {
-		v.fail(api.ErrRange)
+		v.Fail(api.ErrRange)
 		return api.Value{}
 	}
 	return v.row[i]
@@ -62,7 +63,7 @@ func (v *evaluator) column(i int) api.Value {
 func (v *evaluator) number(e api.Expr) int64 {
 	x := v.eval(e)
 	if x.IsText {
-		v.fail(api.ErrType)
+		v.Fail(api.ErrType)
 	}
 	return x.N
 }
@@ -85,7 +86,7 @@ func (v *evaluator) holds(e api.Expr) bool {
 func (v *evaluator) compare(e api.Expr) int {
 	a, b := v.eval(e.Kids[0]), v.eval(e.Kids[1])
 	if a.IsText != b.IsText {
-		v.fail(api.ErrType)
+		v.Fail(api.ErrType)
 	}
 	return value.Compare(a, b)
 }

@@ -1,10 +1,13 @@
 package expr
 
-import "freshet/api"
+import (
+	"freshet/api"
+	"freshet/first"
+)
 
 // typer finds the type of an expression, or the first error of it.
 type typer struct {
-	failure
+	first.Error
 	schema []api.Type
 }
 
@@ -15,8 +18,8 @@ func Infer(e api.Expr, schema []api.Type) (api.Type, api.Errno) {
 	}
 	t := typer{schema: schema}
 	is := t.infer(e)
-	if t.why != api.OK {
-		return api.TypeNone, t.why
+	if t.Why != api.OK {
+		return api.TypeNone, t.Why
 	}
 	return is, api.OK
 }
@@ -25,7 +28,7 @@ func (t *typer) infer(e api.Expr) api.Type {
 	switch e.Op {
 	case api.ExprCol:
 		if e.Col < 0 || e.Col >= len(t.schema) {
-			t.fail(api.ErrRange)
+			t.Fail(api.ErrRange)
 			return api.TypeNone
 		}
 		return t.schema[e.Col]
@@ -53,7 +56,7 @@ func (t *typer) infer(e api.Expr) api.Type {
 func (t *typer) same(l ...api.Type) {
 	for _, x := range l {
 		if x != l[0] {
-			t.fail(api.ErrType)
+			t.Fail(api.ErrType)
 		}
 	}
 }

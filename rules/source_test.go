@@ -109,11 +109,12 @@ func lookFunctions(t *testing.T, name string, fset *token.FileSet, f *ast.File) 
 	}
 }
 
-// A layer calls package api, and of the others those that the document's map names; what is none of its layers it may call.
+// A layer calls package api, and of the others those that the document's map names; what is none of its layers (copies, first) it may call.
 func TestCalls(t *testing.T) {
 	for layer, calls := range map[string]string{
 		"api":    "",
 		"copies": "api",
+		"first":  "api",
 		"pack":   "api",
 		"disk":   "api",
 		"value":  "api pack",
@@ -143,7 +144,7 @@ func TestCalls(t *testing.T) {
 			for _, x := range f.Imports {
 				path, _ := strconv.Unquote(x.Path.Value)
 				own, ok := strings.CutPrefix(path, "freshet/")
-				if ok && own != "copies" && !slices.Contains(strings.Fields(calls), own) {
+				if ok && own != "copies" && own != "first" && !slices.Contains(strings.Fields(calls), own) {
 					t.Errorf("%s imports %s", name, path)
 				}
 			}

@@ -69,6 +69,8 @@ func (w *ways) node(n ast.Node, called map[ast.Expr]bool) {
 		if _, ok := w.under(x.X).(*types.Signature); ok {
 			w.add("range-function", n)
 		}
+	case *ast.FuncLit:
+		w.add("closure", n)
 	case *ast.FuncDecl:
 		if x.Type.TypeParams != nil {
 			w.add("generic-function", n)
@@ -103,6 +105,9 @@ func (w *ways) node(n ast.Node, called map[ast.Expr]bool) {
 		}
 		if s.Kind() == types.MethodVal && !called[x] {
 			w.add("method-value", n)
+		}
+		if s.Kind() == types.MethodExpr {
+			w.add("method-expression", n)
 		}
 	}
 }
@@ -142,6 +147,8 @@ func TestWays(t *testing.T) {
 		"batch":  {"embedding", "promoted", "three-index"},
 		"spine":  {"embedding", "promoted", "range-function"},
 		"expr":   {"embedding", "promoted-method", "struct-compared"},
+		"plan":   {"embedding", "promoted-method"},
+		"mean":   {"method-expression", "closure"},
 	} {
 		found := look(t, layer)
 		for _, word := range words {

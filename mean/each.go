@@ -1,0 +1,64 @@
+package mean
+
+import (
+	"freshet/api"
+	"freshet/diff"
+	"freshet/expr"
+)
+
+// each returns what is made of each count, together; of which nothing is made, there is a count with the N 0.
+func each(l []api.Count, from func(api.Count) (api.Count, api.Errno)) ([]api.Count, api.Errno) {
+	made := make([]api.Count, len(l))
+	for i, c := range l {
+		x, why := from(c)
+		if why != api.OK {
+			return nil, why
+		}
+		made[i] = x
+	}
+	return diff.Merge(made)
+}
+
+// maker is the function by which a plan makes one count of another one.
+func maker(p *api.Plan) func(api.Count) (api.Count, api.Errno) {
+	switch p.Kind {
+	case api.PlanMap:
+		return func(c api.Count) (api.Count, api.Errno) {
+			row, why := values(p.Exprs, c.Row)
+			return api.Count{Row: row, N: c.N}, why
+		}
+	case api.PlanFilter:
+		return func(c api.Count) (api.Count, api.Errno) {
+			v, why := expr.Eval(p.Exprs[0], c.Row)
+			if v.N == 0 {
+				c.N = 0
+			}
+			return c, why
+		}
+	case api.PlanNegate:
+		return func(c api.Count) (api.Count, api.Errno) {
+			n, why := diff.Times(c.N, -1)
+			return api.Count{Row: c.Row, N: n}, why
+		}
+	}
+	return once
+}
+
+// values is the row of what expressions come to.
+func values(exprs []api.Expr, row []api.Value) ([]api.Value, api.Errno) {
+	var l []api.Value
+	for _, e := range exprs {
+		v, why := expr.Eval(e, row)
+		if why != api.OK {
+			return nil, why
+		}
+		l = append(l, v)
+	}
+	return l, api.OK
+}
+
+// once makes of a row that is there one that is there once.
+func once(c api.Count) (api.Count, api.Errno) {
+	c.N = max(0, min(c.N, 1))
+	return c, api.OK
+}
