@@ -1,6 +1,8 @@
 package mean
 
 import (
+	"slices"
+
 	"freshet/api"
 	"freshet/diff"
 	"freshet/expr"
@@ -24,13 +26,13 @@ func maker(p *api.Plan) func(api.Count) (api.Count, api.Errno) {
 	switch p.Kind {
 	case api.PlanMap:
 		return func(c api.Count) (api.Count, api.Errno) {
-			row, why := values(p.Exprs, c.Row)
+			row, why := Values(p.Exprs, c.Row)
 			return api.Count{Row: row, N: c.N}, why
 		}
 	case api.PlanFilter:
 		return func(c api.Count) (api.Count, api.Errno) {
-			v, why := expr.Eval(p.Exprs[0], c.Row)
-			if v.N == 0 {
+			ok, why := Holds(p.Exprs, c.Row)
+			if !ok {
 				c.N = 0
 			}
 			return c, why
@@ -44,8 +46,11 @@ func maker(p *api.Plan) func(api.Count) (api.Count, api.Errno) {
 	return once
 }
 
-// values is the row of what expressions come to.
-func values(exprs []api.Expr, row []api.Value) ([]api.Value, api.Errno) {
+// Values returns the row of what expressions come to for a row, or the first error of expr.Eval; of more expressions than a row has values, ErrForm.
+func Values(exprs []api.Expr, row []api.Value) ([]api.Value, api.Errno) {
+	if len(exprs) > api.MaxCols {
+		return nil, api.ErrForm
+	}
 	var l []api.Value
 	for _, e := range exprs {
 		v, why := expr.Eval(e, row)
@@ -55,6 +60,15 @@ func values(exprs []api.Expr, row []api.Value) ([]api.Value, api.Errno) {
 		l = append(l, v)
 	}
 	return l, api.OK
+}
+
+// Holds reports whether each of expressions comes to a number other than 0 for a row, or returns the error of Values.
+func Holds(exprs []api.Expr, row []api.Value) (bool, api.Errno) {
+	l, why := Values(exprs, row)
+	if why != api.OK {
+		return false, why
+	}
+	return !slices.ContainsFunc(l, func(v api.Value) bool { return v.IsText || v.N == 0 }), api.OK
 }
 
 // once makes of a row that is there one that is there once.

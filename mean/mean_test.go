@@ -570,3 +570,34 @@ func TestLoops(t *testing.T) {
 	// Behind an inner loop, the variable 0 is the outer one again.
 	wantIs(t, iterate(3, a, distinct(concat(iterate(2, b, variable(0)), variable(0)))), s, count(1, 0), count(1, 1), count(1, 5))
 }
+
+// What linear asks of expressions over a row: their values, and whether all are numbers other than 0.
+func TestValues(t *testing.T) {
+	r := row(3, "a", 0)
+	nine := slices.Repeat([]api.Expr{col(1)}, maxCols+1)
+	for i, x := range []struct {
+		exprs []api.Expr
+		want  []api.Value
+		holds bool
+		no    api.Errno
+	}{
+		{nil, nil, true, api.OK},
+		{[]api.Expr{col(0)}, row(3), true, api.OK},
+		{[]api.Expr{col(1), con(4), col(0)}, row("a", 4, 3), false, api.OK},
+		{[]api.Expr{col(0), col(2)}, row(3, 0), false, api.OK},
+		{[]api.Expr{con(-1), con(1)}, row(-1, 1), true, api.OK},
+		{[]api.Expr{con("")}, row(""), false, api.OK},
+		{[]api.Expr{col(2), col(3), op(api.ExprNeg, col(1))}, nil, false, api.ErrRange},
+		{[]api.Expr{op(api.ExprNeg, col(1)), col(3)}, nil, false, api.ErrType},
+		{[]api.Expr{{}}, nil, false, api.ErrForm},
+		{[]api.Expr{op(api.ExprMul, con(greatest), col(0))}, nil, false, api.ErrOver},
+		{nine[1:], row("a", "a", "a", "a", "a", "a", "a", "a"), false, api.OK},
+		{nine, nil, false, api.ErrForm},
+	} {
+		l, why := mean.Values(x.exprs, r)
+		holds, no := mean.Holds(x.exprs, r)
+		if !slices.Equal(l, x.want) || holds != x.holds || why != x.no || no != x.no {
+			t.Errorf("case %d: %v and %t, errors %d and %d", i, l, holds, why, no)
+		}
+	}
+}

@@ -71,6 +71,14 @@ func (w *ways) node(n ast.Node, called map[ast.Expr]bool) {
 		}
 	case *ast.FuncLit:
 		w.add("closure", n)
+	case *ast.BranchStmt:
+		if x.Tok == token.CONTINUE && x.Label != nil {
+			w.add("label", n)
+		}
+	case *ast.IndexExpr:
+		if _, ok := w.under(x.X).(*types.Map); ok {
+			w.add("map", n)
+		}
 	case *ast.FuncDecl:
 		if x.Type.TypeParams != nil {
 			w.add("generic-function", n)
@@ -149,6 +157,8 @@ func TestWays(t *testing.T) {
 		"expr":   {"embedding", "promoted-method", "struct-compared"},
 		"plan":   {"embedding", "promoted-method"},
 		"mean":   {"method-expression", "closure"},
+		"linear": {"embedding", "promoted-method", "map"},
+		"join":   {"embedding", "promoted-method", "label"},
 	} {
 		found := look(t, layer)
 		for _, word := range words {
