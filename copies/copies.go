@@ -70,3 +70,22 @@ func Spine(s api.Spine) api.Spine {
 	}
 	return c
 }
+
+// Exprs returns a copy of expressions with all those in them, which are of a limited depth.
+func Exprs(l []api.Expr) []api.Expr {
+	c := List(l)
+	for i, e := range c {
+		c[i].Kids = Exprs(e.Kids)
+	}
+	return c
+}
+
+// Plan returns a copy of a plan with all those in it, which are of a limited depth.
+func Plan(p api.Plan) api.Plan {
+	p.Kids = List(p.Kids)
+	for i, k := range p.Kids {
+		p.Kids[i] = Plan(k)
+	}
+	p.Exprs, p.Cols, p.With = Exprs(p.Exprs), List(p.Cols), List(p.With)
+	return p
+}

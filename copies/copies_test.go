@@ -130,3 +130,24 @@ func TestSpine(t *testing.T) {
 		t.Errorf("of none: %v", e)
 	}
 }
+
+func TestPlan(t *testing.T) {
+	exprs := []api.Expr{{Op: api.ExprAdd, Kids: []api.Expr{{Op: api.ExprCol, Col: 1}, {Op: api.ExprNot, Kids: []api.Expr{{Op: api.ExprConst, Const: api.Value{N: 5}}}}}}, {Op: api.ExprCol}}
+	cols := []int{1, 2, 3}
+	made := func() api.Plan {
+		kid := api.Plan{Kind: api.PlanMap, Exprs: exprs, Kids: []api.Plan{{Kind: api.PlanReduce, N: 3, Agg: api.AggTop, Cols: cols[:1]}}}
+		return api.Plan{Kind: api.PlanJoin, Cols: cols, With: cols[1:], Exprs: exprs[:1], Rounds: 4, Kids: []api.Plan{kid, kid}}
+	}
+	p := made()
+	c, d, e := copies.Plan(p), copies.Plan(p), copies.Exprs(exprs)
+	if !reflect.DeepEqual(p, made()) || !reflect.DeepEqual(c, p) || !reflect.DeepEqual(e, exprs) {
+		t.Errorf("copied: %v, %v", c, e)
+	}
+	// All lists of exprs are in the plan, too.
+	if !apart(p, c, d, e) {
+		t.Error("copies share memory")
+	}
+	if e := copies.Plan(api.Plan{Kids: []api.Plan{}, Exprs: []api.Expr{}}); len(e.Kids)+len(e.Exprs)+len(e.Cols)+len(e.With) != 0 {
+		t.Errorf("of none: %v", e)
+	}
+}

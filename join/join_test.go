@@ -267,3 +267,19 @@ func TestPairsWrong(t *testing.T) {
 		}
 	}
 }
+
+// What group asks, too: each key once.
+func TestKeys(t *testing.T) {
+	l := ups(up(at(1), 1, 3, 1), up(at(2), 0, 1, 2), by(row("a")), up(at(1), 1, 3, 4), by(nil), by(row(1, 5)), by(row("a"), 2))
+	for range 2 {
+		keys := join.Keys(l)
+		if want := [][]api.Value{nil, row(1), row(1, 5), row(3), row("a")}; !slices.EqualFunc(keys, want, slices.Equal) {
+			t.Errorf("%v, want %v", keys, want)
+		}
+		slices.Reverse(l)
+		keys[1][0].N = 7
+	}
+	if keys := join.Keys(nil); len(keys) > 0 || l[1].Key[0].N != 1 {
+		t.Errorf("of none: %v; %s", keys, show(l))
+	}
+}

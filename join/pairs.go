@@ -6,6 +6,7 @@ import (
 	"sort"
 
 	"freshet/api"
+	"freshet/copies"
 	"freshet/diff"
 	"freshet/linear"
 	"freshet/moment"
@@ -41,29 +42,22 @@ func (p *pairs) pair(x, y api.Update) {
 	p.Produce(api.Update{Row: row, Time: moment.Lub(x.Time, y.Time), Diff: n}, cmp.Or(why, over))
 }
 
-// failAll fails for each of l.
-func (p *pairs) failAll(l []api.Update) {
-	for _, u := range l {
-		p.Fail(u.Time)
-	}
-}
-
 func byKey(a, b api.Update) int {
 	return value.Rows(a.Key, b.Key)
 }
 
+// Keys returns the Keys of updates, in ascending order, each once.
+func Keys(l []api.Update) [][]api.Value {
+	var keys [][]api.Value
+	for _, u := range l {
+		keys = append(keys, copies.List(u.Key))
+	}
+	slices.SortFunc(keys, value.Rows)
+	return slices.CompactFunc(keys, func(a, b []api.Value) bool { return value.Rows(a, b) == 0 })
+}
+
 // matching returns the updates of a spine that match one of l, at least.
 func matching(s api.Spine, l []api.Update) ([]api.Update, api.Errno) {
-	l = slices.Clone(l)
-	slices.SortFunc(l, byKey)
-	l = slices.CompactFunc(l, func(a, b api.Update) bool { return byKey(a, b) == 0 })
-	var found []api.Update
-	for _, u := range l {
-		group, why := spine.Group(s, u.Key)
-		if why != api.OK {
-			return nil, why
-		}
-		found = append(found, group...)
-	}
-	return found, api.OK
+	groups, why := spine.Groups(s, Keys(l)...)
+	return slices.Concat(groups...), why
 }

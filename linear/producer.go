@@ -21,6 +21,13 @@ func (f *failure) Fail(t api.Time) {
 	}
 }
 
+// FailAll records that the operator fails for each of l.
+func (f *failure) FailAll(l []api.Update) {
+	for _, u := range l {
+		f.Fail(u.Time)
+	}
+}
+
 // Producer gathers what an operator produces, and its failures.
 type Producer struct {
 	failure

@@ -21,7 +21,7 @@ func each(l []api.Count, from func(api.Count) (api.Count, api.Errno)) ([]api.Cou
 	return diff.Merge(made)
 }
 
-// maker is the function by which a plan makes one count of another one.
+// maker is the function by which a PlanMap, a PlanFilter or a PlanNegate makes one count of another one.
 func maker(p *api.Plan) func(api.Count) (api.Count, api.Errno) {
 	switch p.Kind {
 	case api.PlanMap:
@@ -37,13 +37,11 @@ func maker(p *api.Plan) func(api.Count) (api.Count, api.Errno) {
 			}
 			return c, why
 		}
-	case api.PlanNegate:
-		return func(c api.Count) (api.Count, api.Errno) {
-			n, why := diff.Times(c.N, -1)
-			return api.Count{Row: c.Row, N: n}, why
-		}
 	}
-	return once
+	return func(c api.Count) (api.Count, api.Errno) {
+		n, why := diff.Times(c.N, -1)
+		return api.Count{Row: c.Row, N: n}, why
+	}
 }
 
 // Values returns the row of what expressions come to for a row, or the first error of expr.Eval; of more expressions than a row has values, ErrForm.
@@ -69,10 +67,4 @@ func Holds(exprs []api.Expr, row []api.Value) (bool, api.Errno) {
 		return false, why
 	}
 	return !slices.ContainsFunc(l, func(v api.Value) bool { return v.IsText || v.N == 0 }), api.OK
-}
-
-// once makes of a row that is there one that is there once.
-func once(c api.Count) (api.Count, api.Errno) {
-	c.N = max(0, min(c.N, 1))
-	return c, api.OK
 }

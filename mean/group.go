@@ -5,6 +5,7 @@ import (
 	"slices"
 
 	"freshet/api"
+	"freshet/copies"
 	"freshet/diff"
 	"freshet/value"
 )
@@ -53,7 +54,7 @@ func join(p *api.Plan, a, b []api.Count) ([]api.Count, api.Errno) {
 // reduce returns the results of all groups.
 func reduce(p *api.Plan, l []api.Count) ([]api.Count, api.Errno) {
 	var made []api.Count
-	groups, tell := arrange(l, p.Cols), teller(p.Agg)
+	groups, tell := arrange(l, p.Cols), teller(p)
 	for _, k := range slices.Sorted(maps.Keys(groups)) {
 		rows := groups[k]
 		x, why := tell(group{key: key(rows[0].Row, p.Cols), n: p.N, rows: rows})
@@ -65,9 +66,40 @@ func reduce(p *api.Plan, l []api.Count) ([]api.Count, api.Errno) {
 	return diff.Merge(made)
 }
 
+// Tells reports whether a plan, whatever else it has, is one by which groups have results: a PlanReduce, or a PlanDistinct.
+func Tells(p api.Plan) bool {
+	if p.Kind != api.PlanReduce {
+		return p.Kind == api.PlanDistinct
+	}
+	return p.Agg > api.AggNone && p.Agg < api.AggCountKinds && (p.Agg != api.AggTop || p.N >= 1 && p.N <= api.MaxTop)
+}
+
+// Fits reports whether a row has the value that a plan by which groups have results needs.
+func Fits(p api.Plan, row []api.Value) bool {
+	if p.Kind != api.PlanReduce || p.Agg == api.AggCount || p.Agg == api.AggTop {
+		return true
+	}
+	return p.N >= 0 && p.N < len(row) && (p.Agg != api.AggSum || !row[p.N].IsText)
+}
+
+// Group returns the result of a group, a collection, by a plan: with the values key, whatever the plan's Cols. The error is ErrForm if there is none, or ErrLong if its row is too long, or that of a number.
+func Group(p api.Plan, key []api.Value, l []api.Count) ([]api.Count, api.Errno) {
+	if !Tells(p) || slices.ContainsFunc(l, func(c api.Count) bool { return !Fits(p, c.Row) }) {
+		return nil, api.ErrForm
+	}
+	if p.Kind == api.PlanReduce && p.Agg != api.AggTop && len(key) >= api.MaxCols {
+		return nil, api.ErrLong
+	}
+	made, why := teller(&p)(group{key: key, n: p.N, rows: l})
+	return copies.Counts(made), why
+}
+
 // teller is the method by which the result of a group is computed.
-func teller(agg api.AggKind) func(group) ([]api.Count, api.Errno) {
-	switch agg {
+func teller(p *api.Plan) func(group) ([]api.Count, api.Errno) {
+	if p.Kind == api.PlanDistinct {
+		return group.distinct
+	}
+	switch p.Agg {
 	case api.AggCount:
 		return group.count
 	case api.AggSum:
@@ -144,6 +176,10 @@ func (g group) one(v api.Value) []api.Count {
 func (g group) top() ([]api.Count, api.Errno) {
 	l := g.present()
 	return l[max(0, len(l)-g.n):], api.OK
+}
+
+func (g group) distinct() ([]api.Count, api.Errno) {
+	return g.present(), api.OK
 }
 
 // present is the rows that are there, each once.

@@ -601,3 +601,57 @@ func TestValues(t *testing.T) {
 		}
 	}
 }
+
+// What group asks of a group of rows: its result by a plan, with a key.
+func TestGroup(t *testing.T) {
+	l := counts(count(-1, 1, "a"), count(2, 1, "b"), count(3, 2, "a"), count(1, 4, ""))
+	long, most := slices.Repeat(row(0), maxCols), slices.Repeat(row(0), maxCols-1)
+	agg := func(agg api.AggKind, n int) api.Plan { return api.Plan{Kind: api.PlanReduce, Agg: agg, N: n} }
+	plain := api.Plan{Kind: api.PlanDistinct}
+	for i, x := range []struct {
+		plan api.Plan
+		key  []api.Value
+		l    []api.Count
+		want []api.Count
+		no   api.Errno
+	}{
+		{agg(api.AggCount, 9), row("k"), l, counts(count(1, "k", 5)), api.OK},
+		{agg(api.AggSum, 0), nil, l, counts(count(1, 11)), api.OK},
+		{agg(api.AggMin, 1), row(7, 8), l, counts(count(1, 7, 8, "")), api.OK},
+		{agg(api.AggMax, 1), row(7), l, counts(count(1, 7, "b")), api.OK},
+		{agg(api.AggMin, 0), nil, l[:1], nil, api.OK},
+		{agg(api.AggTop, 1), row(7), l, counts(count(1, 4, "")), api.OK},
+		{agg(api.AggTop, 8), row(7), l, counts(count(1, 1, "b"), count(1, 2, "a"), count(1, 4, "")), api.OK},
+		{plain, row(7), l, counts(count(1, 1, "b"), count(1, 2, "a"), count(1, 4, "")), api.OK},
+		{agg(api.AggSum, 0), nil, counts(count(greatest, 2)), nil, api.ErrOver},
+		{agg(api.AggSum, 1), nil, l, nil, api.ErrForm},
+		{agg(api.AggMin, 2), nil, l, nil, api.ErrForm},
+		{agg(api.AggMax, -1), nil, l, nil, api.ErrForm},
+		{agg(api.AggSum, 0), nil, append(l, api.Count{N: 1}), nil, api.ErrForm},
+		{agg(api.AggTop, 0), nil, l, nil, api.ErrForm},
+		{agg(api.AggTop, 9), nil, l, nil, api.ErrForm},
+		{agg(api.AggNone, 0), nil, l, nil, api.ErrForm},
+		{agg(api.AggCountKinds, 1), nil, nil, nil, api.ErrForm},
+		{source(0), nil, l, nil, api.ErrForm},
+		{agg(api.AggCount, 0), most, l[:1], []api.Count{{Row: append(most, row(-1)...), N: 1}}, api.OK},
+		{agg(api.AggCount, 0), long, l, nil, api.ErrLong},
+		{agg(api.AggMin, 0), long, l[:1], nil, api.ErrLong},
+		{agg(api.AggTop, 1), long, l, counts(count(1, 4, "")), api.OK},
+		{plain, long, l[:2], counts(count(1, 1, "b")), api.OK},
+	} {
+		got, why := mean.Group(x.plan, x.key, x.l)
+		if !equal(got, x.want) || why != x.no {
+			t.Errorf("case %d: %s, error %d; want %s, error %d", i, show(got), why, show(x.want), x.no)
+		}
+		fits := mean.Tells(x.plan) && !slices.ContainsFunc(x.l, func(c api.Count) bool { return !mean.Fits(x.plan, c.Row) })
+		if fits != (x.no != api.ErrForm) {
+			t.Errorf("case %d: %t", i, fits)
+		}
+		for _, c := range got {
+			spoil(c.Row)
+		}
+	}
+	if !equal(l, counts(count(-1, 1, "a"), count(2, 1, "b"), count(3, 2, "a"), count(1, 4, ""))) {
+		t.Errorf("changed: %s", show(l))
+	}
+}

@@ -71,6 +71,8 @@ func (w *ways) node(n ast.Node, called map[ast.Expr]bool) {
 		}
 	case *ast.FuncLit:
 		w.add("closure", n)
+	case *ast.DeferStmt:
+		w.add("defer", n)
 	case *ast.BranchStmt:
 		if x.Tok == token.CONTINUE && x.Label != nil {
 			w.add("label", n)
@@ -159,6 +161,8 @@ func TestWays(t *testing.T) {
 		"mean":   {"method-expression", "closure"},
 		"linear": {"embedding", "promoted-method", "map"},
 		"join":   {"embedding", "promoted-method", "label"},
+		"group":  {"embedding", "promoted-method"},
+		"graph":  {"embedding", "promoted-method", "defer", "closure"},
 	} {
 		found := look(t, layer)
 		for _, word := range words {

@@ -374,6 +374,9 @@ func TestCheck(t *testing.T) {
 		wantUpdates(t, "All of "+showSpine(s), l, why, nil, api.ErrState)
 		l, why = spine.Group(s, nil)
 		wantUpdates(t, "Group of "+showSpine(s), l, why, nil, api.ErrState)
+		if g, why := spine.Groups(s); len(g) > 0 || why != api.ErrState {
+			t.Errorf("Groups of %s: %d, error %d", showSpine(s), len(g), why)
+		}
 		if b, u, why := spine.Size(s); b != 0 || u != 0 || why != api.ErrState {
 			t.Errorf("Size of %s: %d, %d, error %d", showSpine(s), b, u, why)
 		}
@@ -408,8 +411,15 @@ func wantAll(t *testing.T, s api.Spine) {
 	want, no := diff.Consolidate(advanced)
 	l, why := spine.All(s)
 	wantUpdates(t, "All of "+showSpine(s), l, why, want, no)
-	for _, key := range keys() {
+	groups, over := spine.Groups(s, keys()...)
+	if over != no || no == api.OK && len(groups) != len(keys()) {
+		t.Errorf("Groups of %s: %d, error %d", showSpine(s), len(groups), over)
+	}
+	for i, key := range keys() {
 		g, why := spine.Group(s, key)
+		if no == api.OK {
+			wantUpdates(t, "Groups of "+showRow(key)+" in "+showSpine(s), groups[i], over, g, why)
+		}
 		other := func(u api.Update) bool { return value.Rows(u.Key, key) != 0 }
 		wantUpdates(t, "Group of "+showRow(key)+" in "+showSpine(s), g, why, slices.DeleteFunc(slices.Clone(want), other), no)
 	}
@@ -462,6 +472,9 @@ func TestAllOver(t *testing.T) {
 			wantUpdates(t, "All of "+showSpine(x.s), l, why, nil, api.ErrOver)
 			l, why = spine.Group(x.s, row(x.key))
 			wantUpdates(t, "Group of "+showSpine(x.s), l, why, nil, api.ErrOver)
+			if g, why := spine.Groups(x.s, row(x.fits[0]), row(x.key)); len(g) > 0 || why != api.ErrOver {
+				t.Errorf("Groups of %s: %d, error %d", showSpine(x.s), len(g), why)
+			}
 		}
 		for _, k := range x.fits {
 			var own []api.Update

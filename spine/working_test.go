@@ -522,12 +522,13 @@ func TestNewMemory(t *testing.T) {
 			again, _, _ := spine.Work(inserted, n)
 			all, _ := spine.All(s)
 			group, _ := spine.Group(s, nil)
+			groups, _ := spine.Groups(s, nil, row(1), nil)
 			for i, x := range []api.Spine{inserted, wrong, worked, compacted, refused, again} {
 				if !o.spine(x) {
 					t.Errorf("of %s: result %d shares memory", showSpine(s), i)
 				}
 			}
-			if !o.updates(all) || !o.updates(group) {
+			if !o.updates(all) || !o.updates(group) || slices.ContainsFunc(groups, func(g []api.Update) bool { return !o.updates(g) }) {
 				t.Errorf("of %s: updates share memory", showSpine(s))
 			}
 		}
