@@ -89,3 +89,25 @@ func Plan(p api.Plan) api.Plan {
 	p.Exprs, p.Cols, p.With = Exprs(p.Exprs), List(p.Cols), List(p.With)
 	return p
 }
+
+// Nodes returns a copy of nodes with all their lists.
+func Nodes(l []api.Node) []api.Node {
+	c := List(l)
+	for i, n := range c {
+		c[i].Plan, c[i].To, c[i].Back = Plan(n.Plan), List(n.To), List(n.Back)
+	}
+	return c
+}
+
+// Flow returns a copy of a flow with all its lists.
+func Flow(f api.Flow) api.Flow {
+	f.Nodes, f.States = Nodes(f.Nodes), List(f.States)
+	for i, s := range f.States {
+		for port, l := range s.Waits {
+			s.Waits[port] = Updates(l)
+		}
+		s.Left, s.Right = Spine(s.Left), Spine(s.Right)
+		f.States[i] = s
+	}
+	return f
+}

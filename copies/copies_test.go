@@ -81,6 +81,10 @@ func lists(v reflect.Value, found func(reflect.Value)) {
 		for i := range v.Len() {
 			lists(v.Index(i), found)
 		}
+	case reflect.Array:
+		for i := range v.Len() {
+			lists(v.Index(i), found)
+		}
 	case reflect.Struct:
 		for i := range v.NumField() {
 			lists(v.Field(i), found)
@@ -148,6 +152,31 @@ func TestPlan(t *testing.T) {
 		t.Error("copies share memory")
 	}
 	if e := copies.Plan(api.Plan{Kids: []api.Plan{}, Exprs: []api.Expr{}}); len(e.Kids)+len(e.Exprs)+len(e.Cols)+len(e.With) != 0 {
+		t.Errorf("of none: %v", e)
+	}
+}
+
+func TestFlow(t *testing.T) {
+	ports := []api.Port{{Node: 1}, {Node: 2, Port: 1}}
+	made := func() api.Flow {
+		s := api.Spine{Since: []api.Time{{Epoch: 3}}, Levels: []api.Level{{Class: 2, Batch: api.Batch{Updates: updates()}}}}
+		n := api.Node{Kind: api.NodePlan, Plan: api.Plan{Kind: api.PlanJoin, Cols: []int{1}, With: []int{2}}, N: 1, Loop: 2, Rounds: 3, To: ports, Back: ports[1:]}
+		return api.Flow{
+			Nodes:  []api.Node{{Kind: api.NodeOut}, n, n},
+			States: []api.State{{}, {Waits: [2][]api.Update{updates(), updates()[:1]}, Left: s, Right: s}, {Waits: [2][]api.Update{nil, updates()}}},
+			Failed: true,
+			Fail:   5,
+		}
+	}
+	f := made()
+	c, d, n := copies.Flow(f), copies.Flow(f), copies.Nodes(f.Nodes)
+	if !reflect.DeepEqual(f, made()) || !reflect.DeepEqual(c, f) || !reflect.DeepEqual(n, f.Nodes) {
+		t.Errorf("copied: %v, %v", c, n)
+	}
+	if !apart(f, c, d, n) {
+		t.Error("copies share memory")
+	}
+	if e := copies.Flow(api.Flow{}); len(e.Nodes)+len(e.States) != 0 {
 		t.Errorf("of none: %v", e)
 	}
 }

@@ -455,3 +455,29 @@ func TestBound(t *testing.T) {
 		}
 	}
 }
+
+// How many ports a node has to which updates may be led: as Check has it.
+func TestEntries(t *testing.T) {
+	for _, x := range []struct {
+		node api.Node
+		want int
+	}{
+		{out(), 1},
+		{from(0, 0, 0), 0},
+		{begin(0, 1, 0), 2},
+		{leave(0, 1, 0, 0), 1},
+		{by(join(source(0), source(0), nil, nil), 0, 0), 2},
+		{by(negate(source(0)), 0, 0), 1},
+		{by(distinct(source(0)), 0, 0), 1},
+	} {
+		if n := graph.Entries(x.node); n != x.want {
+			t.Errorf("%s: %d entries, want %d", show([]api.Node{x.node}), n, x.want)
+		}
+		for port := range 3 {
+			l := []api.Node{out(), x.node, by(negate(source(0)), 1, port)}
+			if why := graph.Check(l); x.node.Kind != api.NodeOut && (why == api.OK) != (port < x.want) {
+				t.Errorf("%s: to port %d: error %d", show(l), port, why)
+			}
+		}
+	}
+}

@@ -50,15 +50,15 @@ func nothing(p api.Plan) bool {
 // lead reports whether there are all of these ports.
 func lead(l []api.Node, ports []api.Port) bool {
 	for _, p := range ports {
-		if p.Node < 0 || p.Node >= len(l) || p.Port < 0 || p.Port >= entries(&l[p.Node]) {
+		if p.Node < 0 || p.Node >= len(l) || p.Port < 0 || p.Port >= Entries(l[p.Node]) {
 			return false
 		}
 	}
 	return true
 }
 
-// entries is how many ports a node has.
-func entries(n *api.Node) int {
+// Entries returns how many ports a node has to which updates may be led.
+func Entries(n api.Node) int {
 	switch {
 	case n.Kind == api.NodeSource:
 		return 0

@@ -66,8 +66,13 @@ func (w *ways) node(n ast.Node, called map[ast.Expr]bool) {
 			}
 		}
 	case *ast.RangeStmt:
-		if _, ok := w.under(x.X).(*types.Signature); ok {
+		switch y := w.under(x.X).(type) {
+		case *types.Signature:
 			w.add("range-function", n)
+		case *types.Basic:
+			if y.Info()&types.IsInteger != 0 {
+				w.add("range-integer", n)
+			}
 		}
 	case *ast.FuncLit:
 		w.add("closure", n)
@@ -163,6 +168,8 @@ func TestWays(t *testing.T) {
 		"join":   {"embedding", "promoted-method", "label"},
 		"group":  {"embedding", "promoted-method"},
 		"graph":  {"embedding", "promoted-method", "defer", "closure"},
+		"flow":   {"embedding", "promoted", "closure"},
+		"front":  {"range-integer", "closure"},
 	} {
 		found := look(t, layer)
 		for _, word := range words {
