@@ -111,3 +111,34 @@ func Flow(f api.Flow) api.Flow {
 	}
 	return f
 }
+
+// Schemas returns a copy of the schemas of sources.
+func Schemas(l [][]api.Type) [][]api.Type {
+	c := List(l)
+	for i, schema := range c {
+		c[i] = List(schema)
+	}
+	return c
+}
+
+// Base returns a copy of a base with all its lists.
+func Base(b api.Base) api.Base {
+	b.Schemas, b.Sources = Schemas(b.Schemas), List(b.Sources)
+	for i, l := range b.Sources {
+		b.Sources[i] = Updates(l)
+	}
+	b.Queries, b.Subs = List(b.Queries), List(b.Subs)
+	for i, q := range b.Queries {
+		b.Queries[i].Plan = Plan(q.Plan)
+	}
+	return b
+}
+
+// Engine returns a copy of an engine with all its lists.
+func Engine(e api.Engine) api.Engine {
+	e.Base, e.Flows = Base(e.Base), List(e.Flows)
+	for i, f := range e.Flows {
+		e.Flows[i] = Flow(f)
+	}
+	return e
+}

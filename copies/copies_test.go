@@ -180,3 +180,38 @@ func TestFlow(t *testing.T) {
 		t.Errorf("of none: %v", e)
 	}
 }
+
+func TestEngine(t *testing.T) {
+	types := []api.Type{api.TypeInt, api.TypeText}
+	cols := []int{1, 2}
+	made := func() api.Engine {
+		q := api.Query{Name: "q", Plan: api.Plan{Kind: api.PlanReduce, Cols: cols, Kids: []api.Plan{{Kind: api.PlanSource}}}, Done: 3}
+		f := api.Flow{Nodes: []api.Node{{Kind: api.NodeOut, Plan: q.Plan}}, States: []api.State{{Waits: [2][]api.Update{updates(), nil}}}, Failed: true, Fail: 4}
+		return api.Engine{
+			Base: api.Base{
+				Schemas: [][]api.Type{types, types[:1], nil},
+				Sources: [][]api.Update{updates(), nil, updates()[:2]},
+				Closed:  5,
+				Since:   2,
+				Queries: []api.Query{q, q},
+				Subs:    []api.Sub{{Name: "s", Query: "q", Next: 6, Begun: true}, {}},
+			},
+			Flows: []api.Flow{f, {}, f},
+		}
+	}
+	e := made()
+	c, d := copies.Engine(e), copies.Engine(e)
+	b, s := copies.Base(e.Base), copies.Schemas(e.Base.Schemas)
+	if !reflect.DeepEqual(e, made()) || !reflect.DeepEqual(c, e) || !reflect.DeepEqual(b, e.Base) || !reflect.DeepEqual(s, e.Base.Schemas) {
+		t.Errorf("copied: %v, %v, %v", c, b, s)
+	}
+	if !apart(e, c, d, b, s) {
+		t.Error("copies share memory")
+	}
+	if e := copies.Engine(api.Engine{}); !reflect.DeepEqual(e, api.Engine{}) {
+		t.Errorf("of none: %v", e)
+	}
+	if s := copies.Schemas(nil); len(s) != 0 {
+		t.Errorf("of none: %v", s)
+	}
+}

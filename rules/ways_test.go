@@ -82,6 +82,9 @@ func (w *ways) node(n ast.Node, called map[ast.Expr]bool) {
 		if x.Tok == token.CONTINUE && x.Label != nil {
 			w.add("label", n)
 		}
+		if x.Tok == token.FALLTHROUGH {
+			w.add("fallthrough", n)
+		}
 	case *ast.IndexExpr:
 		if _, ok := w.under(x.X).(*types.Map); ok {
 			w.add("map", n)
@@ -170,6 +173,8 @@ func TestWays(t *testing.T) {
 		"graph":  {"embedding", "promoted-method", "defer", "closure"},
 		"flow":   {"embedding", "promoted", "closure"},
 		"front":  {"range-integer", "closure"},
+		"input":  {"embedding", "promoted-method", "variadic", "fallthrough", "range-function"},
+		"engine": {"embedding", "promoted"},
 	} {
 		found := look(t, layer)
 		for _, word := range words {
