@@ -142,3 +142,33 @@ func Engine(e api.Engine) api.Engine {
 	}
 	return e
 }
+
+// Disk returns a copy of a disk with all its lists.
+func Disk(d api.Disk) api.Disk {
+	d.Files, d.Waits = List(d.Files), List(d.Waits)
+	return d
+}
+
+// Server returns a copy of a server with all its lists.
+func Server(s api.Server) api.Server {
+	s.Disk, s.Engine = Disk(s.Disk), Engine(s.Engine)
+	return s
+}
+
+// Clients returns a copy of clients with all that they have heard.
+func Clients(l []api.Client) []api.Client {
+	c := List(l)
+	for i, x := range c {
+		c[i].Heard = List(x.Heard)
+		for k, heard := range x.Heard {
+			c[i].Heard[k] = Counts(heard)
+		}
+	}
+	return c
+}
+
+// World returns a copy of a world with all its lists.
+func World(w api.World) api.World {
+	w.Server, w.Clients = Server(w.Server), Clients(w.Clients)
+	return w
+}

@@ -215,3 +215,28 @@ func TestEngine(t *testing.T) {
 		t.Errorf("of none: %v", s)
 	}
 }
+
+func TestWorld(t *testing.T) {
+	counts := []api.Count{{Row: []api.Value{{N: 1}, {IsText: true, S: "a"}}, N: 2}, {N: -3}}
+	made := func() api.World {
+		d := api.Disk{Files: []api.File{{Name: "a", Data: "b"}, {}}, Waits: []api.Write{{Kind: api.WriteRename, Name: "a", To: "c"}, {Data: "x"}}, Room: 5, Down: true, Fuse: 6}
+		e := api.Engine{Base: api.Base{Sources: [][]api.Update{updates()}, Closed: 7}, Flows: []api.Flow{{Nodes: []api.Node{{Kind: api.NodeOut}}}}}
+		return api.World{
+			Up:      true,
+			Server:  api.Server{Disk: d, Gen: 8, Engine: e},
+			Clients: []api.Client{{Name: "x", First: 9, Heard: [][]api.Count{counts, nil, counts[:1]}}, {}, {Name: "y", Heard: [][]api.Count{counts}}},
+		}
+	}
+	w := made()
+	c, d := copies.World(w), copies.World(w)
+	k, s, l := copies.Disk(w.Server.Disk), copies.Server(w.Server), copies.Clients(w.Clients)
+	if !reflect.DeepEqual(w, made()) || !reflect.DeepEqual(c, w) || !reflect.DeepEqual(k, w.Server.Disk) || !reflect.DeepEqual(s, w.Server) || !reflect.DeepEqual(l, w.Clients) {
+		t.Errorf("copied: %v, %v, %v, %v", c, k, s, l)
+	}
+	if !apart(w, c, d, k, s, l) {
+		t.Error("copies share memory")
+	}
+	if e := copies.World(api.World{}); !reflect.DeepEqual(e, api.World{}) {
+		t.Errorf("of none: %v", e)
+	}
+}

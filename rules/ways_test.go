@@ -175,6 +175,8 @@ func TestWays(t *testing.T) {
 		"front":  {"range-integer", "closure"},
 		"input":  {"embedding", "promoted-method", "variadic", "fallthrough", "range-function"},
 		"engine": {"embedding", "promoted"},
+		"serve":  {"embedding", "promoted", "variadic"},
+		"world":  {"embedding", "promoted", "closure"},
 	} {
 		found := look(t, layer)
 		for _, word := range words {
